@@ -1,0 +1,12 @@
+// Package every asks a question of all that a list holds; layers share it.
+package every
+
+// One tells whether holds is so of each of xs, asked in their order; those behind the first one of which it is not so are not asked about.
+func One[X any](xs []X, holds func(at int, x X) bool) bool {
+	for at, x := range xs {
+		if !holds(at, x) {
+			return false
+		}
+	}
+	return true
+}
