@@ -10,3 +10,10 @@ func One[X any](xs []X, holds func(at int, x X) bool) bool {
 	}
 	return true
 }
+
+// Pair tells whether there are as many of xs as of ys, and holds is so of each two that stand side by side, asked in their order; those behind the first two of which it is not so are not asked about.
+func Pair[X any, Y any](xs []X, ys []Y, holds func(x X, y Y) bool) bool {
+	return len(xs) == len(ys) && One(xs, func(at int, x X) bool {
+		return holds(x, ys[at])
+	})
+}
