@@ -1,7 +1,10 @@
-// Package cells reads what a buffer has of a single row; layers share it.
+// Package cells reads what a buffer has of a single row, and lays down what it has of all of them; layers share it.
 package cells
 
 import (
+	"slices"
+	"strings"
+
 	"quiver/api"
 	"quiver/bits"
 	"quiver/num"
@@ -30,6 +33,35 @@ func number(s string, row int, size int) (int, bool) {
 	return x, e == api.OK
 }
 
+// PutShorts tells numbers, each from 0 to api.Most, in ShortSize bytes each.
+func PutShorts(xs []int) string {
+	return putNumbers(xs, ShortSize)
+}
+
+// PutLongs tells numbers in LongSize bytes each.
+func PutLongs(xs []int) string {
+	return putNumbers(xs, LongSize)
+}
+
+// putNumbers tells numbers in so many bytes each.
+func putNumbers(xs []int, size int) string {
+	var out strings.Builder
+	for _, x := range xs {
+		s, _ := num.Put(x, size)
+		out.WriteString(s)
+	}
+	return out.String()
+}
+
+// PutBits tells truths, a bit each, in just as many bytes as they need.
+func PutBits(ons []bool) string {
+	s := strings.Repeat("\x00", (len(ons)+7)/8)
+	for i, on := range ons {
+		s, _ = bits.Set(s, i, on)
+	}
+	return s
+}
+
 // IsThere tells whether a row is not nothing, by the bits of an array's Valid: without any, all rows are there.
 func IsThere(valid string, row int) bool {
 	if valid == "" {
@@ -37,4 +69,12 @@ func IsThere(valid string, row int) bool {
 	}
 	on, e := bits.Get(valid, row)
 	return on && e == api.OK
+}
+
+// PutValid tells an array's Valid by which rows are not nothing: no bits, if all rows are there.
+func PutValid(there []bool) string {
+	if !slices.Contains(there, false) {
+		return ""
+	}
+	return PutBits(there)
 }
